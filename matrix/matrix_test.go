@@ -618,7 +618,8 @@ func TestProductsTogether(t *testing.T) {
 	}
 }
 
-// TestAnyRowsOfCodes: whichever k rows stay, and in whichever order, they have an inverse.
+// TestAnyRowsOfCodes: whichever k rows stay, and in whichever order, they have an inverse. Of codes of more than 10
+// rows only some choices are drawn, as there are too many for a quick test.
 func TestAnyRowsOfCodes(t *testing.T) {
 	r := rand.New(rand.NewSource(8))
 	for k := 1; k <= 15; k++ {
