@@ -456,35 +456,45 @@ func (m model) recover() api.Errno {
 	return api.OK
 }
 
-// finish brings a path's staged journals to an end that enough drives that count have.
+// finish brings a path's staged journals to an end that enough drives that count have, each by what drives have when its turn comes.
 func (m model) finish(path string, boots []int) {
-	staged, done := m.read("tmp/j/"+path), m.read("j/"+path)
 	seen := map[string]int{}
-	for _, c := range staged {
-		seen[string(c.B)]++
-		j, err := journal.Read(c.B)
-		if c.Err != api.OK || err != api.OK || seen[string(c.B)] > 1 {
+	for _, d := range m.l {
+		b, err := d.Read("tmp/j/" + path)
+		if unbroken(err) != api.OK {
+			continue
+		}
+		if seen[string(b)]++; seen[string(b)] > 1 {
+			continue
+		}
+		j, err := journal.Read(b)
+		if err != api.OK {
 			continue
 		}
 		var some drives
+		staged, done := m.read("tmp/j/"+path), m.read("j/"+path)
 		for i, d := range m.l {
-			as := staged[i].Err == api.OK && bytes.Equal(staged[i].B, c.B)
-			is := done[i].Err == api.OK && bytes.Equal(done[i].B, c.B)
+			as := staged[i].Err == api.OK && bytes.Equal(staged[i].B, b)
+			is := done[i].Err == api.OK && bytes.Equal(done[i].B, b)
 			if boots[i] == slices.Max(boots) && (as || is) {
 				some = append(some, d)
 			}
 		}
-		if len(some) < m.k+1 {
-			continue
+		if len(some) >= m.k+1 {
+			renameOn(some, path, j)
 		}
-		for _, d := range some {
-			for _, r := range j.Records {
-				if !r.Mark {
-					unbroken(d.Rename("tmp/s/"+path+"-"+r.Data, "s/"+path+"-"+r.Data))
-				}
+	}
+}
+
+// renameOn gives what is staged of a journal, and of its records, its names, drive by drive.
+func renameOn(l drives, path string, j api.Journal) {
+	for _, d := range l {
+		for _, r := range j.Records {
+			if !r.Mark {
+				unbroken(d.Rename("tmp/s/"+path+"-"+r.Data, "s/"+path+"-"+r.Data))
 			}
-			unbroken(d.Rename("tmp/j/"+path, "j/"+path))
 		}
+		unbroken(d.Rename("tmp/j/"+path, "j/"+path))
 	}
 }
 

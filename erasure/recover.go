@@ -65,26 +65,24 @@ func (s *Set) boot(last int) api.Errno {
 	return err
 }
 
-// finish gives the staged files of a path their names, where enough drives that count have the same journal, staged or finished.
+// finish gives the staged files of a path their names, where enough drives that count have the same journal. A finishing changes what drives have under both names: each drive is asked for what it has staged when its turn comes, and all drives are asked anew for each journal.
 func (s *Set) finish(path string, counts func(i int) bool) api.Errno {
-	staged, err := fan.Read(s.drives, api.Staged+journals+path)
-	if err != api.OK {
-		return err
-	}
-	finished, err := fan.Read(s.drives, journals+path)
-	if err != api.OK {
-		return err
-	}
-	for i, c := range staged {
-		j, err := journal.Read(c.B)
-		if err != api.OK || has(staged[:i], c.B) {
+	var looked []api.Copy
+	for i := range s.drives {
+		own, err := fan.Read(s.drives[i:i+1], api.Staged+journals+path)
+		if err != api.OK {
+			return err
+		}
+		b := own[0].B
+		// What stands beside an error is none.
+		j, err := journal.Read(b)
+		if err != api.OK || has(looked, b) {
 			continue
 		}
-		var l []*drive.Drive
-		for at, d := range s.drives {
-			if counts(at) && (has(staged[at:at+1], c.B) || has(finished[at:at+1], c.B)) {
-				l = append(l, d)
-			}
+		looked = append(looked, own[0])
+		l, err := s.having(path, b, counts)
+		if err != api.OK {
+			return err
 		}
 		if len(l) <= s.k {
 			continue
@@ -94,6 +92,25 @@ func (s *Set) finish(path string, counts func(i int) bool) api.Errno {
 		}
 	}
 	return api.OK
+}
+
+// having tells the drives that count, and that have just these bytes as a path's journal now, staged or finished.
+func (s *Set) having(path string, b []byte, counts func(i int) bool) ([]*drive.Drive, api.Errno) {
+	staged, err := fan.Read(s.drives, api.Staged+journals+path)
+	if err != api.OK {
+		return nil, err
+	}
+	finished, err := fan.Read(s.drives, journals+path)
+	if err != api.OK {
+		return nil, err
+	}
+	var l []*drive.Drive
+	for i, d := range s.drives {
+		if counts(i) && (has(staged[i:i+1], b) || has(finished[i:i+1], b)) {
+			l = append(l, d)
+		}
+	}
+	return l, api.OK
 }
 
 // has tells whether a drive answered with these bytes.

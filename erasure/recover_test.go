@@ -333,6 +333,137 @@ func TestFinishTurned(t *testing.T) {
 	}
 }
 
+// pair is what a drive has of an object's journals, by their Seq, 0 being none: under its name, and staged.
+type pair struct{ done, staged int }
+
+// inTurn are journals of Seq 1 on, as bytes, each of which has one version more than the one ahead of it.
+func inTurn(t *testing.T, last, k, m int) [][]byte {
+	t.Helper()
+	all := [][]byte{nil}
+	var j api.Journal
+	for seq := 1; seq <= last; seq++ {
+		var err api.Errno
+		if j, err = journal.Add(j, whole(version(fmt.Sprint("v", seq), seq), nil, k, m)); err != api.OK {
+			t.Fatal(err)
+		}
+		b, _ := journal.Bytes(j)
+		all = append(all, b)
+	}
+	return all
+}
+
+// paired are drives that have these journals, each with the shard files of all its versions; of a staged one the last version's are staged, too.
+func paired(t *testing.T, k int, pairs ...pair) drives {
+	t.Helper()
+	bytes := inTurn(t, 3, k, len(pairs)-k)
+	l := made(t, len(pairs), 1<<16)
+	for i, p := range pairs {
+		for n := 1; n <= p.done; n++ {
+			raw(t, l[i], shardName(n), []byte{1})
+		}
+		if p.done > 0 {
+			raw(t, l[i], "j/a", bytes[p.done])
+		}
+		if p.staged > 0 {
+			raw(t, l[i], "tmp/"+shardName(p.staged), []byte{2})
+			raw(t, l[i], "tmp/j/a", bytes[p.staged])
+		}
+	}
+	return l
+}
+
+// pairedNow is what each drive has of the object behind Recover: its journal's Seq, and of which versions it has shard files.
+func pairedNow(l drives) []string {
+	var all []string
+	for _, d := range l {
+		files := filesOf(d)
+		j, _ := journal.Read([]byte(files["j/a"].b))
+		line := fmt.Sprint(j.Seq, ":")
+		for n := 1; n <= 3; n++ {
+			if _, there := files[shardName(n)]; there {
+				line += fmt.Sprint(" ", n)
+			}
+		}
+		all = append(all, line)
+	}
+	return all
+}
+
+// TestFinishInTurn: where unlike journals of one path are staged, each is finished, or is not, by what drives have when its turn comes: what was finished ahead of it may have taken it from drives, or given it its name there.
+func TestFinishInTurn(t *testing.T) {
+	for _, x := range []struct {
+		what   string
+		k      int
+		pairs  []pair
+		wanted []string
+	}{
+		{"taken from the first drive", 1, []pair{{1, 2}, {0, 2}, {0, 1}}, []string{"2: 1 2", "2: 2", "0:"}},
+		{"the other way round", 1, []pair{{0, 1}, {0, 2}, {1, 2}}, []string{"1: 1", "2: 2", "2: 1 2"}},
+		{"taken, but enough are left", 1, []pair{{1, 2}, {0, 2}, {0, 1}, {0, 1}}, []string{"2: 1 2", "2: 2", "1: 1", "1: 1"}},
+		{"taken from one of three", 2, []pair{{1, 2}, {0, 2}, {0, 2}, {0, 1}, {0, 1}}, []string{"2: 1 2", "2: 2", "2: 2", "0:", "0:"}},
+		{"taken from all but one, by two", 1, []pair{{1, 2}, {0, 2}, {1, 3}, {0, 3}, {0, 1}}, []string{"2: 1 2", "2: 2", "3: 1 3", "3: 3", "0:"}},
+		{"named by another's finishing", 1, []pair{{0, 1}, {1, 2}, {2, 0}, {2, 0}}, []string{"1: 1", "2: 1", "2: 1 2", "2: 1 2"}},
+		{"named, and staged on a later drive", 1, []pair{{0, 1}, {1, 2}, {2, 0}, {1, 0}, {0, 2}}, []string{"1: 1", "2: 1 2", "2: 1 2", "1: 1", "2: 2"}},
+		{"named, and so too few of the older one", 1, []pair{{1, 2}, {2, 3}, {0, 2}, {3, 0}, {0, 1}}, []string{"2: 1 2", "3: 1 2", "2: 2", "3: 1 2 3", "0:"}},
+	} {
+		l := paired(t, x.k, x.pairs...)
+		want(t, x.what, step(t, x.what, set(t, l, x.k), l, recovers(), noFuse).err, api.OK)
+		if got := pairedNow(l); !slices.Equal(got, x.wanted) || count(l, "tmp/") != 0 {
+			t.Errorf("%s: %q, %d staged; want %q", x.what, got, count(l, "tmp/"), x.wanted)
+		}
+	}
+}
+
+// TestFinishTaken: a mark that was stopped in the midst, and another one on top of it: only that one has two drives when both were looked at.
+func TestFinishTaken(t *testing.T) {
+	l, s := fresh(t, 3, 1)
+	for i, c := range []call{put("a", mark("null", 1), nil), put("a", mark("x", 2), nil)} {
+		want(t, "stopped", step(t, "stopped", s, l, c, []int{7, 4}[i]).err, api.ErrBroken)
+		crash(l, nil)
+	}
+	want(t, "Recover", step(t, "taken", s, l, recovers(), noFuse).err, api.OK)
+	if got := pairedNow(l); !slices.Equal(got, []string{"2:", "2:", "0:"}) || len(filesOf(l[2])) != 1 {
+		t.Errorf("%q; the third drive has %s", got, shown(filesOf(l[2])))
+	}
+	wantBoots(t, "taken", l, 1, 1, 1)
+}
+
+// TestFinishNamed: two drives are mended of unlike journals, stopped in the midst: what the second one has staged has its name by the finishing of the first one's, and is looked at no more.
+func TestFinishNamed(t *testing.T) {
+	l, s := fresh(t, 4, 1)
+	for i, c := range []call{put("a", version("null", 1), []byte("abc")), put("a", version("x", 2), []byte("de"))} {
+		for at := range i + 1 {
+			away(l, at)
+		}
+		must(t, s, c)
+		l[i].Offline(false)
+		want(t, "stopped", step(t, "stopped", s, l, get("a", ""), 4).err, api.ErrBroken)
+		crash(l, nil)
+	}
+	back(l)
+	want(t, "Recover", step(t, "named", s, l, recovers(), noFuse).err, api.OK)
+	if got := pairedNow(l); !slices.Equal(got, []string{"1: 1", "2: 1", "2: 1 2", "2: 1 2"}) || count(l, "tmp/") != 0 {
+		t.Errorf("%q, %d staged", got, count(l, "tmp/"))
+	}
+	reads(t, "named", s, "a", "", []byte("de"))
+	reads(t, "named", s, "a", "null", []byte("abc"))
+}
+
+// TestFinishEachPair: all that three drives may have of three journals, under both names.
+func TestFinishEachPair(t *testing.T) {
+	for bits := range 1 << 12 {
+		var pairs []pair
+		for i := range 3 {
+			pairs = append(pairs, pair{bits >> (4 * i) & 3, bits >> (4*i + 2) & 3})
+		}
+		for k := 1; k <= 2; k++ {
+			what := fmt.Sprint(k, " of 3, journals ", pairs)
+			_, got := hold(t, what, paired(t, k, pairs...), k, recovers(), noFuse)
+			want(t, what, got.err, api.OK)
+		}
+	}
+}
+
 // TestRecoverDrawn: files of all kinds drawn by chance on drives of all kinds: each Recover is held against the model, wherever a fuse stops it.
 func TestRecoverDrawn(t *testing.T) {
 	r := rand.New(rand.NewSource(1208))
